@@ -1,0 +1,20 @@
+package wire
+
+// halves holds what four shifts make of each half byte, so that a byte takes two look-ups instead of eight shifts.
+var halves = [16]uint32{
+	0x00000000, 0x105ec76f, 0x20bd8ede, 0x30e349b1,
+	0x417b1dbc, 0x5125dad3, 0x61c69362, 0x7198540d,
+	0x82f63b78, 0x92a8fc17, 0xa24bb5a6, 0xb21572c9,
+	0xc38d26c4, 0xd3d3e1ab, 0xe330a81a, 0xf36e6f75,
+}
+
+// Sum returns the CRC-32C checksum of s.
+func Sum(s string) int {
+	register := ^uint32(0)
+	for i := range len(s) {
+		register ^= uint32(s[i])
+		register = register>>4 ^ halves[register%16]
+		register = register>>4 ^ halves[register%16]
+	}
+	return int(^register)
+}
