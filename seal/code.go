@@ -9,21 +9,11 @@ import (
 	"longliner/wire"
 )
 
-// integers returns the encodings of numbers, which are so small that they have one, one after the other.
-func integers(numbers ...int) string {
+// encodings returns what put makes of all the values, one after the other. They are so small that they have an encoding.
+func encodings[T any](put func(T) (string, api.Errno), all ...T) string {
 	var code strings.Builder
-	for _, n := range numbers {
-		one, _ := wire.PutInt(n)
-		code.WriteString(one)
-	}
-	return code.String()
-}
-
-// texts returns the encodings of strings, which are so short that they have one, one after the other.
-func texts(all ...string) string {
-	var code strings.Builder
-	for _, s := range all {
-		one, _ := wire.PutString(s)
+	for _, x := range all {
+		one, _ := put(x)
 		code.WriteString(one)
 	}
 	return code.String()
@@ -48,12 +38,14 @@ func refuse(wrong bool, code api.Errno) {
 
 // reason returns the code with which a reading was stopped, where stop is what was recovered.
 func reason(stop any) api.Errno {
-	if stop == nil {
+	switch err := stop.(type) {
+	case nil:
 		return api.OK
-	}
-	var r refusal
-	if err, ok := stop.(error); ok && errors.As(err, &r) {
-		return r.code
+	case error:
+		var r refusal
+		if errors.As(err, &r) {
+			return r.code
+		}
 	}
 	return api.ErrSeal // no panic gets out, whatever it is
 }

@@ -6,6 +6,7 @@ import (
 
 	"longliner/api"
 	"longliner/digest"
+	"longliner/wire"
 )
 
 // Different first bytes keep steps and key strings apart from each other, and from the strings that package digest makes digests of.
@@ -55,7 +56,8 @@ type key struct {
 func (k key) secrets() iter.Seq2[int, string] {
 	return func(yield func(int, string) bool) {
 		for chain := range api.Chains {
-			if !yield(chain, digest.Sum(integers(k.index, chain)+k.seed)) {
+			numbers := encodings(wire.PutInt, k.index, chain)
+			if !yield(chain, digest.Sum(numbers+k.seed)) {
 				return
 			}
 		}
